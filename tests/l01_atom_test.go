@@ -1,6 +1,7 @@
 package tests
 
 import (
+	"cmp"
 	"math"
 	"slices"
 	"strconv"
@@ -242,17 +243,16 @@ var textsInOrder = []string{
 }
 
 func TestCompareAtomsHasOneOrder(t *testing.T) {
-	for i, a := range textsInOrder {
-		for j, b := range textsInOrder {
-			want := 0
-			if i < j {
-				want = -1
-			}
-			if i > j {
-				want = 1
-			}
-			if got := impl.CompareAtoms(a, b); got != want {
-				t.Errorf("CompareAtoms(%q, %q) = %d, not %d", a, b, got, want)
+	checkOneOrder(t, "CompareAtoms", textsInOrder, impl.CompareAtoms)
+}
+
+// checkOneOrder compares each two elements of a list that is in ascending order.
+func checkOneOrder[T any](t *testing.T, name string, l []T, compare func(T, T) int) {
+	t.Helper()
+	for i, a := range l {
+		for j, b := range l {
+			if got, want := compare(a, b), cmp.Compare(i, j); got != want {
+				t.Errorf("%s(%#v, %#v) = %d, not %d", name, a, b, got, want)
 			}
 		}
 	}
