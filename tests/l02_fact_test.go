@@ -104,25 +104,29 @@ var (
 	noAtoms = []string{"", "A", "aB", "?x", "?1", "?", "abcdefghi", "123456789", "-1", "+1", "1.5", "a b", " a", "a ", "a,b", ",", "a)", "(a", "()", "a()", "\u00e9", "\u0665", "\xff", "\x00", "a\n"}
 )
 
-func TestInvalidFacts(t *testing.T) {
+// badTuples returns facts that have a wrong Rel, a wrong element in each place of Args, or too many Args.
+func badTuples(noArgs []string) []impl.Fact {
+	l := []impl.Fact{
+		{},
+		fact("p", "a", "b", "c", "d"),
+		fact("p", "a", "a", "a", "a"),
+		fact("p", "a", "b", "c", ""),
+		fact("p", make([]string, 100)...),
+	}
 	for _, rel := range noNames {
-		checkInvalid(t, fact(rel))
-		checkInvalid(t, fact(rel, "a"))
-		checkInvalid(t, fact(rel, "a", "b", "c"))
+		l = append(l, fact(rel), fact(rel, "a"), fact(rel, "a", "b", "c"))
 	}
-	for _, arg := range noAtoms {
-		checkInvalid(t, fact("p", arg))
-		checkInvalid(t, fact("p", arg, "a"))
-		checkInvalid(t, fact("p", "a", arg))
-		checkInvalid(t, fact("p", arg, "a", "b"))
-		checkInvalid(t, fact("p", "a", arg, "b"))
-		checkInvalid(t, fact("p", "a", "b", arg))
+	for _, arg := range noArgs {
+		l = append(l, fact("p", arg), fact("p", arg, "a"), fact("p", "a", arg))
+		l = append(l, fact("p", arg, "a", "b"), fact("p", "a", arg, "b"), fact("p", "a", "b", arg))
 	}
-	checkInvalid(t, impl.Fact{})
-	checkInvalid(t, fact("p", "a", "b", "c", "d"))
-	checkInvalid(t, fact("p", "a", "a", "a", "a"))
-	checkInvalid(t, fact("p", "a", "b", "c", ""))
-	checkInvalid(t, fact("p", make([]string, 100)...))
+	return l
+}
+
+func TestInvalidFacts(t *testing.T) {
+	for _, f := range badTuples(noAtoms) {
+		checkInvalid(t, f)
+	}
 }
 
 func checkInvalid(t *testing.T, f impl.Fact) {
@@ -183,40 +187,47 @@ func checkParseFact(t *testing.T, s string) {
 	}
 }
 
-// Every text that is one byte away from a fact, by removal, insertion or replacement.
-func TestParseFactOfTextsNearFacts(t *testing.T) {
-	for _, c := range validFacts {
-		for i := range len(c.text) + 1 {
-			before, behind := c.text[:i], c.text[i:]
-			for b := range 256 {
-				checkParseFact(t, before+string([]byte{byte(b)})+behind)
-			}
-			if behind == "" {
-				continue
-			}
-			checkParseFact(t, before+behind[1:])
-			for b := range 256 {
-				checkParseFact(t, before+string([]byte{byte(b)})+behind[1:])
-			}
+// nearTexts calls do with every text that is one byte away from a text, by removal, insertion or replacement.
+func nearTexts(text string, do func(string)) {
+	for i := range len(text) + 1 {
+		before, behind := text[:i], text[i:]
+		for b := range 256 {
+			do(before + string([]byte{byte(b)}) + behind)
+		}
+		if behind == "" {
+			continue
+		}
+		do(before + behind[1:])
+		for b := range 256 {
+			do(before + string([]byte{byte(b)}) + behind[1:])
 		}
 	}
 }
 
-// Every text of at most seven of the bytes that matter.
-func TestParseFactOfShortTexts(t *testing.T) {
+// shortTexts calls do with every text of at most n of the characters.
+func shortTexts(characters string, n int, do func(string)) {
 	texts := []string{""}
-	for range 7 {
+	do("")
+	for range n {
 		longer := []string{}
 		for _, s := range texts {
-			for _, c := range "a1(,) " {
+			for _, c := range characters {
 				longer = append(longer, s+string(c))
+				do(s + string(c))
 			}
-		}
-		for _, s := range longer {
-			checkParseFact(t, s)
 		}
 		texts = longer
 	}
+}
+
+func TestParseFactOfTextsNearFacts(t *testing.T) {
+	for _, c := range validFacts {
+		nearTexts(c.text, func(s string) { checkParseFact(t, s) })
+	}
+}
+
+func TestParseFactOfShortTexts(t *testing.T) {
+	shortTexts("a1(,) ", 7, func(s string) { checkParseFact(t, s) })
 }
 
 // Facts in the order of CompareFacts, also those that are not valid.
