@@ -752,6 +752,18 @@ func overwrite[T any](l []T, x T) {
 	}
 }
 
+// checkArguments does the calls, which overwrite their results, and checks that the arguments stay as they are.
+func checkArguments(t *testing.T, calls map[string]func(), arguments func() []any) {
+	t.Helper()
+	before := arguments()
+	for name, call := range calls {
+		call()
+		if !reflect.DeepEqual(arguments(), before) {
+			t.Fatalf("%s changes its arguments, or its result shares memory with them: %q", name, arguments())
+		}
+	}
+}
+
 func TestPatternsAndBindingsStayAsTheyAre(t *testing.T) {
 	p := pattern("p", roomyTexts("?y", "?x")...)
 	ground := pattern("p", roomyTexts("a", "1")...)
@@ -787,16 +799,9 @@ func TestPatternsAndBindingsStayAsTheyAre(t *testing.T) {
 			impl.SamePattern(p, ground)
 		},
 	}
-	all := func() []any {
+	checkArguments(t, calls, func() []any {
 		return []any{wholeList(p.Args), wholeList(ground.Args), wholeList(f.Args), wholeList(vars), wholeList(b), wholeList(whole)}
-	}
-	before := all()
-	for name, call := range calls {
-		call()
-		if !reflect.DeepEqual(all(), before) {
-			t.Fatalf("%s changes its arguments, or its result shares memory with them: %q", name, all())
-		}
-	}
+	})
 }
 
 func TestReadPatternsHaveTheirOwnMemory(t *testing.T) {
