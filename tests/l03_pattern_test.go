@@ -478,7 +478,7 @@ func TestMatchFactRefusesInvalidFacts(t *testing.T) {
 // tuples returns all lists of at most n of the elements.
 func tuples[T any](n int, elements ...T) [][]T {
 	l := [][]T{{}}
-	for i := 0; len(l[i]) < n; i++ {
+	for i := 0; i < len(l) && len(l[i]) < n; i++ {
 		for _, x := range elements {
 			l = append(l, append(slices.Clone(l[i]), x))
 		}
