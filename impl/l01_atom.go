@@ -105,3 +105,11 @@ func isLetter(r rune) bool {
 func isDigit(r rune) bool {
 	return '0' <= r && r <= '9'
 }
+
+func formatInts(l []int) []string {
+	texts := make([]string, len(l))
+	for i, n := range l {
+		texts[i] = FormatInt(n)
+	}
+	return texts
+}
